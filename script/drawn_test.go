@@ -92,6 +92,9 @@ func step(top want, next api.Token) (more []want, taken int, ok bool) {
 		if isMark("}") {
 			return all("", d, 1)
 		}
+		if next == (api.Token{}) {
+			return nil, 0, false
+		}
 		return []want{{"COMMAND", d + 1}, {"BLOCK", d}}, 0, true
 	case "MORE":
 		if isWord("elsif") {
@@ -380,6 +383,9 @@ func TestDrawnScripts(t *testing.T) {
 		at := d.IntN(len(l))
 		x := all[d.IntN(len(all))]
 		agrees(t, l[:at])
+		if _, place, e := script.Parse(l[:at]); e != api.OK && (e != api.ErrShort || place != at) {
+			t.Fatalf("Parse(%v), which may go on: %d, %d", l[:at], place, e)
+		}
 		agrees(t, slices.Delete(slices.Clone(l), at, at+1))
 		agrees(t, slices.Insert(slices.Clone(l), at, x))
 		agrees(t, slices.Concat(l[:at], []api.Token{x}, l[at+1:]))

@@ -239,19 +239,32 @@ func TestDeepCommands(t *testing.T) {
 	}
 	at := len(tokens(t, deep))
 	parses(t, deep+"keep; "+ends, nested(plain(api.Keep)))
-	parses(t, deep+"if true { } "+ends, nested(when(yes)))
-	parses(t, deep+"if true { } else { } "+ends, nested(when(yes)))
-	parses(t, deep+"if true { } elsif false { } "+ends, nested(either(yes, nil, when(api.Test{Kind: api.False}))))
 	stumbles(t, tokens(t, deep), at, api.ErrShort)
 	stumbles(t, tokens(t, deep+";"), at, api.ErrForm)
 	stumbles(t, tokens(t, deep+"if true"), at+2, api.ErrShort)
-	for _, block := range []string{"if true {", "if true { } else {", "if true { } elsif true {", "if true { } elsif false { } else {"} {
-		place := at + len(tokens(t, block))
-		stumbles(t, tokens(t, deep+block), place, api.ErrSize)
-		for _, s := range []string{"keep; }", "keep", "if true { } }", "if", "else", ";", "{", `"a"`, "1"} {
-			stumbles(t, tokens(t, deep+block+s), place, api.ErrSize)
-			stumbles(t, tokens(t, deep+block+s+ends), place, api.ErrSize)
+	no := api.Test{Kind: api.False}
+	for _, c := range []struct {
+		block string
+		want  api.Command
+	}{
+		{"if true { ", when(yes)},
+		{"if true { } else { ", when(yes)},
+		{"if true { } elsif false { ", either(yes, nil, when(no))},
+		{"if true { } elsif false { } else { ", either(yes, nil, when(no))},
+	} {
+		place := at + len(tokens(t, c.block))
+		parses(t, deep+c.block+"} "+ends, nested(c.want))
+		// The block's end may stand where the tokens end, so nothing there is too deep.
+		stumbles(t, tokens(t, deep+c.block), place, api.ErrShort)
+		for _, s := range []string{"keep; }", "keep", "if true { } }", "if", "else", ";", "{", `"a"`, "1", ")", "]", ":is"} {
+			stumbles(t, tokens(t, deep+c.block+s), place, api.ErrSize)
+			stumbles(t, tokens(t, deep+c.block+s+ends), place, api.ErrSize)
 		}
+	}
+	// However many of the blocks are open where the tokens end, the tokens are too short.
+	whole := tokens(t, deep+"if true { } "+ends)
+	for n := 1; n < len(whole); n++ {
+		stumbles(t, whole[:n], n, api.ErrShort)
 	}
 	stumbles(t, tokens(t, deep+"if true { } }"+ends), at+len(tokens(t, "if true { } }"+ends))-1, api.ErrForm)
 	chain, want := "if true { } ", when(yes)

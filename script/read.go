@@ -19,7 +19,7 @@ type reader struct {
 func readScript(l []api.Token) []api.Command {
 	r := reader{l: l}
 	var out []api.Command
-	for r.at < len(l) {
+	for !r.ended() {
 		out = append(out, r.command(0))
 	}
 	return out
@@ -54,13 +54,15 @@ func (r *reader) branches(depth int) api.Command {
 	return c
 }
 
-// block of commands that are so deep.
+// block of commands that are so deep. Where the tokens end in it no command is to begin, however deep it would be: the
+// block's end may stand there as well.
 func (r *reader) block(depth int) []api.Command {
 	r.take(api.Mark, "{")
 	var out []api.Command
-	for !r.skips(api.Mark, "}") {
+	for !r.ended() && !r.meets(api.Mark, "}") {
 		out = append(out, r.command(depth))
 	}
+	r.take(api.Mark, "}")
 	return out
 }
 
@@ -145,8 +147,8 @@ func (r *reader) text() string {
 	return r.takeKind(api.String).Text
 }
 
-// kind of a command or test that is to begin here. That it would be too deep comes ahead of what stands here, and of
-// whether anything does.
+// kind of a command or test that is to begin here. That it would be too deep comes ahead of what stands here, and, of
+// a test, of whether anything does: nothing else may stand where one is to begin.
 func (r *reader) kind(thing, depth int) int {
 	if depth > api.MaxNest {
 		panic(misfit{r.at, api.ErrSize})
@@ -159,9 +161,14 @@ func (r *reader) kind(thing, depth int) int {
 	return n
 }
 
+// ended: there is no next token.
+func (r *reader) ended() bool {
+	return r.at == len(r.l)
+}
+
 // next token, which is not taken yet; at the end one that may not be.
 func (r *reader) next() api.Token {
-	if r.at == len(r.l) {
+	if r.ended() {
 		return api.Token{}
 	}
 	return r.l[r.at]
@@ -186,17 +193,22 @@ func (r *reader) take(kind int, text string) {
 
 // skips the next token, if it is this one, and tells so.
 func (r *reader) skips(kind int, text string) bool {
-	t := r.next()
-	if t.Kind != kind || t.Text != text {
+	if !r.meets(kind, text) {
 		return false
 	}
 	r.at++
 	return true
 }
 
+// meets: the next token is this one.
+func (r *reader) meets(kind int, text string) bool {
+	t := r.next()
+	return t.Kind == kind && t.Text == text
+}
+
 // misfitHere: why the next token can't stand where it stands.
 func (r *reader) misfitHere() misfit {
-	if r.at == len(r.l) {
+	if r.ended() {
 		return misfit{r.at, api.ErrShort}
 	}
 	return misfit{r.at, api.ErrForm}
